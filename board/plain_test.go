@@ -287,8 +287,49 @@ func wrap(x *big.Int) int64 {
 	return int64(rest.Uint64())
 }
 
-// slow does what P3 says with numbers of any size, so that it shares no
-// arithmetic with the program.
+// slowStep does one order with numbers of any size, so that it shares no
+// arithmetic with the program; it answers the number of the order's trap.
+func slowStep(s *api.State, o api.Order) int {
+	a, b := big.NewInt(s.Regs[o.A]), big.NewInt(s.Regs[o.B])
+	place := slowPlace(s, o)
+	if o.Op == api.Div && b.Sign() == 0 {
+		return api.Zero
+	}
+	if (o.Op == api.Load || o.Op == api.Store) && (place < 0 || place >= int64(len(s.Memory))) {
+		return api.Place
+	}
+	next := s.Next + 1
+	switch o.Op {
+	case api.Set:
+		s.Regs[o.D] = o.K
+	case api.Add:
+		s.Regs[o.D] = wrap(a.Add(a, b))
+	case api.Sub:
+		s.Regs[o.D] = wrap(a.Sub(a, b))
+	case api.Mul:
+		s.Regs[o.D] = wrap(a.Mul(a, b))
+	case api.Div:
+		s.Regs[o.D] = wrap(a.Quo(a, b))
+	case api.Load:
+		s.Regs[o.D] = s.Memory[place]
+	case api.Store:
+		s.Memory[place] = s.Regs[o.B]
+	case api.Jump:
+		if a.Sign() == 0 {
+			next = int(o.K)
+		}
+	}
+	s.Next = next
+	s.Steps++
+	return 0
+}
+
+// slowPlace: the number of the word that a Load or a Store is about.
+func slowPlace(s *api.State, o api.Order) int64 {
+	return wrap(new(big.Int).Add(big.NewInt(s.Regs[o.A]), big.NewInt(o.K)))
+}
+
+// slow does what P3 says, by slow steps.
 func slow(program []api.Order, memory []int64, steps int) api.State {
 	s := api.State{Memory: slices.Clone(memory)}
 	for s.Next < len(program) && program[s.Next].Op != api.Halt {
@@ -296,40 +337,10 @@ func slow(program []api.Order, memory []int64, steps int) api.State {
 			s.Stop = api.OutOfSteps
 			return s
 		}
-		o := program[s.Next]
-		a, b := big.NewInt(s.Regs[o.A]), big.NewInt(s.Regs[o.B])
-		place := wrap(new(big.Int).Add(a, big.NewInt(o.K)))
-		if o.Op == api.Div && b.Sign() == 0 {
-			s.Stop, s.Trap = api.Trapped, api.Zero
+		if trap := slowStep(&s, program[s.Next]); trap != 0 {
+			s.Stop, s.Trap = api.Trapped, trap
 			return s
 		}
-		if (o.Op == api.Load || o.Op == api.Store) && (place < 0 || place >= int64(len(memory))) {
-			s.Stop, s.Trap = api.Trapped, api.Place
-			return s
-		}
-		next := s.Next + 1
-		switch o.Op {
-		case api.Set:
-			s.Regs[o.D] = o.K
-		case api.Add:
-			s.Regs[o.D] = wrap(a.Add(a, b))
-		case api.Sub:
-			s.Regs[o.D] = wrap(a.Sub(a, b))
-		case api.Mul:
-			s.Regs[o.D] = wrap(a.Mul(a, b))
-		case api.Div:
-			s.Regs[o.D] = wrap(a.Quo(a, b))
-		case api.Load:
-			s.Regs[o.D] = s.Memory[place]
-		case api.Store:
-			s.Memory[place] = s.Regs[o.B]
-		case api.Jump:
-			if a.Sign() == 0 {
-				next = int(o.K)
-			}
-		}
-		s.Next = next
-		s.Steps++
 	}
 	return s
 }

@@ -22,6 +22,32 @@ type Effect struct {
 	Value  int64
 }
 
+// Put changes the state.
+func (e Effect) Put(s *api.State) {
+	switch e.Target {
+	case Register:
+		s.Regs[e.Place] = e.Value
+	case Word:
+		s.Memory[e.Place] = e.Value
+	case Next:
+		s.Next = int(e.Value)
+	}
+}
+
+// Reverse answers the effect that undoes this one, if it is asked for ahead
+// of putting this one into the state.
+func (e Effect) Reverse(s *api.State) Effect {
+	switch e.Target {
+	case Register:
+		e.Value = s.Regs[e.Place]
+	case Word:
+		e.Value = s.Memory[e.Place]
+	case Next:
+		e.Value = int64(s.Next)
+	}
+	return e
+}
+
 // Inputs: an order, its own number, the values of its registers A and B, and
 // the memory's words, which the order's work only looks at.
 type Inputs struct {
@@ -31,24 +57,33 @@ type Inputs struct {
 	Words  []int64
 }
 
-// row: of an Op.
+// Take takes an order's inputs out of the state as it is now. The order's
+// number is told apart from the state's Next, which may be further on.
+func Take(s *api.State, o api.Order, number int) Inputs {
+	return Inputs{Order: o, Number: number, A: s.Regs[o.A], B: s.Regs[o.B], Words: s.Memory}
+}
+
+// row: of an Op: what it does, which kind of unit it needs, and which of its
+// registers it reads and writes.
 type row struct {
-	do func(Inputs) Effect
+	do                      func(Inputs) Effect
+	kind                    int
+	readsA, readsB, writesD bool
 }
 
 // table has a row for each Op. It is made by a function, since no table of
 // functions stands at package level.
 func table() [api.Jump + 1]row {
 	return [api.Jump + 1]row{
-		api.Halt:  {do: Inputs.halt},
-		api.Set:   {do: Inputs.set},
-		api.Add:   {do: Inputs.add},
-		api.Sub:   {do: Inputs.sub},
-		api.Mul:   {do: Inputs.mul},
-		api.Div:   {do: Inputs.div},
-		api.Load:  {do: Inputs.load},
-		api.Store: {do: Inputs.store},
-		api.Jump:  {do: Inputs.jump},
+		api.Halt:  {do: Inputs.halt, kind: NoUnit},
+		api.Set:   {do: Inputs.set, kind: api.Adder, writesD: true},
+		api.Add:   {do: Inputs.add, kind: api.Adder, readsA: true, readsB: true, writesD: true},
+		api.Sub:   {do: Inputs.sub, kind: api.Adder, readsA: true, readsB: true, writesD: true},
+		api.Mul:   {do: Inputs.mul, kind: api.Multiplier, readsA: true, readsB: true, writesD: true},
+		api.Div:   {do: Inputs.div, kind: api.Divider, readsA: true, readsB: true, writesD: true},
+		api.Load:  {do: Inputs.load, kind: api.Memory, readsA: true, writesD: true},
+		api.Store: {do: Inputs.store, kind: api.Memory, readsA: true, readsB: true},
+		api.Jump:  {do: Inputs.jump, kind: NoUnit, readsA: true},
 	}
 }
 

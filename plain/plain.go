@@ -32,29 +32,12 @@ func Do(program []api.Order, memory []int64, steps int) api.State {
 // step does one order, or answers the number of its trap and leaves the state
 // as it was.
 func step(s *api.State, o api.Order) int {
-	effect, trap := orders.Work(orders.Inputs{
-		Order:  o,
-		Number: s.Next,
-		A:      s.Regs[o.A],
-		B:      s.Regs[o.B],
-		Words:  s.Memory,
-	})
+	effect, trap := orders.Work(orders.Take(s, o, s.Next))
 	if trap != 0 {
 		return trap
 	}
 	s.Next++
 	s.Steps++
-	put(s, effect)
+	effect.Put(s)
 	return 0
-}
-
-func put(s *api.State, e orders.Effect) {
-	switch e.Target {
-	case orders.Register:
-		s.Regs[e.Place] = e.Value
-	case orders.Word:
-		s.Memory[e.Place] = e.Value
-	case orders.Next:
-		s.Next = int(e.Value)
-	}
 }
